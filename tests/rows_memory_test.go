@@ -7,7 +7,7 @@ import (
 	"loop.example/bentrows/impl"
 )
 
-// rowCall is a function of chapter 1 with its numbers filled in; it returns the list that the function makes, if any.
+// rowCall is a function with its numbers filled in; it returns the list that the function makes, if any.
 type rowCall struct {
 	name string
 	call func(a []int, b []int) []int
@@ -31,6 +31,11 @@ func rowCalls() []rowCall {
 		{"RowPart", func(a []int, b []int) []int { x, _ := impl.RowPart(a, 0, len(a)-1); return x }},
 		{"RowPart of one", func(a []int, b []int) []int { x, _ := impl.RowPart(a, 0, 0); return x }},
 	}
+}
+
+// allCalls returns the calls of all chapters.
+func allCalls() []rowCall {
+	return append(rowCalls(), lineCalls()...)
 }
 
 // roomy returns a copy of a list with room behind it that a careless append would fill.
@@ -65,7 +70,7 @@ func memoryPairs() [][2][]int {
 }
 
 func TestArgumentsStay(t *testing.T) {
-	for _, c := range rowCalls() {
+	for _, c := range allCalls() {
 		for _, p := range memoryPairs() {
 			a, b := roomy(p[0]), roomy(p[1])
 			wholeA, wholeB := slices.Clone(whole(a)), slices.Clone(whole(b))
@@ -82,7 +87,7 @@ func TestArgumentsStay(t *testing.T) {
 }
 
 func TestResultsStay(t *testing.T) {
-	for _, c := range rowCalls() {
+	for _, c := range allCalls() {
 		for _, p := range memoryPairs() {
 			a, b := roomy(p[0]), roomy(p[1])
 			first := c.call(a, b)
