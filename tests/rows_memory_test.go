@@ -35,7 +35,7 @@ func rowCalls() []rowCall {
 
 // allCalls returns the calls of all chapters.
 func allCalls() []rowCall {
-	return slices.Concat(rowCalls(), lineCalls(), mergeCalls())
+	return slices.Concat(rowCalls(), lineCalls(), mergeCalls(), valleyCalls())
 }
 
 // roomy returns a copy of a list with room behind it that a careless append would fill.
