@@ -1,7 +1,6 @@
 package tests
 
 import (
-	"slices"
 	"sync"
 	"testing"
 
@@ -120,30 +119,16 @@ func memoryTables() []tableArgs {
 	}
 }
 
-// clonedLists returns a copy of lists, nil ones among them.
-func clonedLists(lists [][]int) [][]int {
-	var all [][]int
-	for _, a := range lists {
-		all = append(all, slices.Clone(a))
-	}
-	return all
+// question returns a call with a copy of these arguments.
+func (a tableArgs) question(c tableCall) question {
+	args := a.roomy()
+	return question{c.name, a, args.lists, func() [][]int { return args.call(c) }}
 }
 
 func TestTableArgumentsStay(t *testing.T) {
 	for _, c := range tableCalls() {
 		for _, m := range memoryTables() {
-			args := m.roomy()
-			kept := clonedLists(args.lists())
-			result := args.call(c)
-			if !sameTable(args.lists(), kept) {
-				t.Errorf("%s changed its arguments %v", c.name, m)
-			}
-			for _, a := range result {
-				scribble(a)
-			}
-			if !sameTable(args.lists(), kept) {
-				t.Errorf("the result of %s shares memory with %v", c.name, m)
-			}
+			wantArgumentsStay(t, m.question(c))
 		}
 	}
 }
@@ -168,22 +153,7 @@ func TestTableRowsStay(t *testing.T) {
 func TestTableResultsStay(t *testing.T) {
 	for _, c := range tableCalls() {
 		for _, m := range memoryTables() {
-			args := m.roomy()
-			first := args.call(c)
-			kept := clonedLists(first)
-			second := args.call(c)
-			if !sameTable(second, kept) {
-				t.Errorf("%s of %v returned %v and then %v", c.name, m, kept, second)
-			}
-			for _, a := range slices.Concat(second, args.t, args.u, [][]int{args.rows, args.columns}) {
-				scribble(a)
-			}
-			if !sameTable(first, kept) {
-				t.Errorf("the results of %s of %v share memory", c.name, m)
-			}
-			if third := m.roomy().call(c); !sameTable(third, kept) {
-				t.Errorf("%s of %v returned %v and then %v", c.name, m, kept, third)
-			}
+			wantResultsStay(t, func() question { return m.question(c) })
 		}
 	}
 }
@@ -206,21 +176,11 @@ func TestOneTableTwice(t *testing.T) {
 	wantList(t, a, true, []int{0, 1, 4}, "the list of the entries")
 }
 
-// TestTablesAtOnce asks from many goroutines at once, and again and again: each answer is the same.
 func TestTablesAtOnce(t *testing.T) {
 	var askers sync.WaitGroup
 	for _, c := range tableCalls() {
 		for _, m := range memoryTables() {
-			want := m.call(c)
-			for range 4 {
-				askers.Go(func() {
-					for range 5 {
-						if got := m.call(c); !sameTable(got, want) {
-							t.Errorf("%s of %v returned %v and %v", c.name, m, want, got)
-						}
-					}
-				})
-			}
+			wantSameAtOnce(t, &askers, m.question(c))
 		}
 	}
 	askers.Wait()
