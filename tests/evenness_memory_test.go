@@ -8,14 +8,8 @@ import (
 	"loop.example/bentrows/impl"
 )
 
-// evenCall is a function that is asked about two lists; it returns the lists that the function makes, numbers among them in a list of their own.
-type evenCall struct {
-	name string
-	call func(a []int, b []int) [][]int
-}
-
-func evenCalls() []evenCall {
-	return []evenCall{
+func evenCalls() []pairCall {
+	return []pairCall{
 		{"EvenIs", func(a []int, b []int) [][]int {
 			return [][]int{told(impl.EvenIs(a, b))}
 		}},
@@ -61,17 +55,10 @@ func memoryEvens() [][2][]int {
 	}...)
 }
 
-// evenQuestion returns a call with a copy of two lists, with room behind them.
-func evenQuestion(c evenCall, p [2][]int) question {
-	a, b := roomy(p[0]), roomy(p[1])
-	lists := func() [][]int { return [][]int{whole(a), whole(b)} }
-	return question{c.name, p, lists, func() [][]int { return c.call(a, b) }}
-}
-
 func TestEvenArgumentsStay(t *testing.T) {
 	for _, c := range evenCalls() {
 		for _, p := range memoryEvens() {
-			wantArgumentsStay(t, evenQuestion(c, p))
+			wantArgumentsStay(t, c.question(p))
 		}
 	}
 }
@@ -79,7 +66,7 @@ func TestEvenArgumentsStay(t *testing.T) {
 func TestEvenResultsStay(t *testing.T) {
 	for _, c := range evenCalls() {
 		for _, p := range memoryEvens() {
-			wantResultsStay(t, func() question { return evenQuestion(c, p) })
+			wantResultsStay(t, func() question { return c.question(p) })
 		}
 	}
 }
@@ -130,7 +117,7 @@ func TestEvensAtOnce(t *testing.T) {
 	var askers sync.WaitGroup
 	for _, c := range evenCalls() {
 		for _, p := range memoryEvens() {
-			wantSameAtOnce(t, &askers, evenQuestion(c, p))
+			wantSameAtOnce(t, &askers, c.question(p))
 		}
 	}
 	askers.Wait()

@@ -16,6 +16,19 @@ type question struct {
 	ask func() [][]int
 }
 
+// pairCall is a function that is asked about two lists; it returns the lists that the function makes, numbers among them in a list of their own.
+type pairCall struct {
+	name string
+	call func(a []int, b []int) [][]int
+}
+
+// question returns the call with a copy of two lists, with room behind them.
+func (c pairCall) question(p [2][]int) question {
+	a, b := roomy(p[0]), roomy(p[1])
+	lists := func() [][]int { return [][]int{whole(a), whole(b)} }
+	return question{c.name, p, lists, func() [][]int { return c.call(a, b) }}
+}
+
 // clonedLists returns a copy of lists, nil ones among them.
 func clonedLists(lists [][]int) [][]int {
 	var all [][]int
