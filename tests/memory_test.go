@@ -1,9 +1,11 @@
 package tests
 
 import (
+	"runtime"
 	"slices"
 	"sync"
 	"testing"
+	"time"
 )
 
 // question is a function with its arguments, which have room behind them.
@@ -87,4 +89,17 @@ func wantSameAtOnce(t *testing.T, askers *sync.WaitGroup, q question) {
 			}
 		})
 	}
+}
+
+// wantNoMore checks that there are no more goroutines than before.
+func wantNoMore(t *testing.T, before int) {
+	t.Helper()
+	// One that is joined may still be counted for a moment.
+	for range 1000 {
+		if runtime.NumGoroutine() <= before {
+			return
+		}
+		time.Sleep(time.Millisecond)
+	}
+	t.Errorf("there are %d goroutines, and %d before", runtime.NumGoroutine(), before)
 }

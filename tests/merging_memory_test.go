@@ -5,7 +5,6 @@ import (
 	"slices"
 	"sync"
 	"testing"
-	"time"
 
 	"loop.example/bentrows/impl"
 )
@@ -97,12 +96,5 @@ func TestNoGoroutineStays(t *testing.T) {
 			c.call(p[0], p[1])
 		}
 	}
-	// One that is joined may still be counted for a moment.
-	for range 1000 {
-		if runtime.NumGoroutine() <= before {
-			return
-		}
-		time.Sleep(time.Millisecond)
-	}
-	t.Errorf("there are %d goroutines, and %d before", runtime.NumGoroutine(), before)
+	wantNoMore(t, before)
 }
