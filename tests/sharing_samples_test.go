@@ -214,6 +214,63 @@ func shareGroups() [][][]int {
 	return slices.Concat(smallGroups(), limitGroups(), longGroups())
 }
 
+// pricedSharing is a sharing with its least and its greatest price.
+type pricedSharing struct {
+	rows      [][]int
+	list      []int
+	low, high int
+}
+
+// pricedSharings returns sharings that have a price, of rows that are bent and of others.
+func pricedSharings() []pricedSharing {
+	return []pricedSharing{
+		{[][]int{{0, 1, 4}, {0, 2}}, []int{1, 1}, 2, 3},
+		{[][]int{{0, 1, 4}}, []int{1}, 1, 3},
+		// No slope leads to a place, none leads from one, or neither.
+		{[][]int{{0, 1, 4}, {0, 2}}, []int{0, 0}, -3000, 1},
+		{[][]int{{0, 1, 4}, {0, 2}}, []int{2, 1}, 3, 3000},
+		{slices.Repeat([][]int{squares()}, 4), []int{0, 0, 0, 0}, -3000, 1},
+		{slices.Repeat([][]int{squares()}, 4), []int{11, 11, 11, 11}, 21, 3000},
+		{[][]int{{7}}, []int{0}, -3000, 3000},
+		{[][]int{{7}, {-1000}, {1000}, {0}}, []int{0, 0, 0, 0}, -3000, 3000},
+		{[][]int{{7}, {0, 1, 4}}, []int{0, 1}, 1, 3},
+		{[][]int{{-1000, 1000}}, []int{0}, -3000, 2000},
+		{[][]int{{-1000, 1000}}, []int{1}, 2000, 3000},
+		{[][]int{{1000, -1000}}, []int{0}, -3000, -2000},
+		{[][]int{{1000, -1000}}, []int{1}, -2000, 3000},
+		{[][]int{{1000, -1000, 1000}}, []int{1}, -2000, 2000},
+		// One price only, at each side of 0.
+		{[][]int{{0, 1, 2}}, []int{1}, 1, 1},
+		{[][]int{{0, -4, -8}}, []int{1}, -4, -4},
+		{[][]int{{0, 5}, {0, 5}}, []int{1, 0}, 5, 5},
+		{[][]int{{0, 5}, {0, 5}}, []int{0, 1}, 5, 5},
+		{[][]int{{0, 0}, {0, 0}}, []int{0, 1}, 0, 0},
+		{[][]int{{1000, -1000}, {1000, -1000}}, []int{0, 1}, -2000, -2000},
+		// The bounds come from different rows.
+		{[][]int{{0, 1, 9}, {0, 3, 5}, {0, 2, 20}}, []int{1, 0, 1}, 2, 3},
+		{[][]int{{9, 4, 1, 0}, {0, 1}, {5, 0, 0}, {8}}, []int{2, 0, 1, 0}, -3, -1},
+		// Rows that are not bent, at places where only the slopes beside them count.
+		{[][]int{{0, 1, 9, 10}}, []int{1}, 1, 8},
+		{[][]int{{0, 1, 9, 10}}, []int{3}, 1, 3000},
+		{[][]int{{9, 0, 9, 0}}, []int{1}, -9, 9},
+	}
+}
+
+// pricelessSharings returns sharings that have no price, though they are sharings.
+func pricelessSharings() []shareArgs {
+	return []shareArgs{
+		{[][]int{{0, 1, 4}, {0, 2}}, []int{2, 0}},
+		{[][]int{{0, 1}, {0, 0}}, []int{1, 0}},
+		{[][]int{{0, 0}, {0, 1}}, []int{0, 1}},
+		{[][]int{{0, 1, 1}}, []int{1}},
+		{[][]int{{-1000, 1000, -1000}}, []int{1}},
+		{[][]int{{-1000, 1000}, {1000, -1000}}, []int{1, 0}},
+		{[][]int{{0, 1, 4}, {3}, {0, 2, 1}, {3}}, []int{0, 0, 1, 0}},
+		{[][]int{{9, 0, 9, 0}}, []int{2}},
+		{[][]int{{0, 5, 6, 20}, {0, 9}}, []int{3, 0}},
+	}
+}
+
 // noSharers returns lists that are not the rows of a sharing: none, too many, and one that is no row, at each place in turn.
 func noSharers() [][][]int {
 	groups := [][][]int{nil, {}, {nil}, {{}}, {{}, {}}, steady(sharersMax+1, 1, 0), steady(sharersMax+1, 2, 1), steady(6, 3, 0), steady(100, 1, 0), slices.Repeat([][]int{nil}, 100)}

@@ -168,60 +168,14 @@ func TestSharePrice(t *testing.T) {
 }
 
 func TestSharePriceBounds(t *testing.T) {
-	for _, c := range []struct {
-		rows      [][]int
-		list      []int
-		low, high int
-	}{
-		{[][]int{{0, 1, 4}, {0, 2}}, []int{1, 1}, 2, 3},
-		{[][]int{{0, 1, 4}}, []int{1}, 1, 3},
-		// No slope leads to a place, none leads from one, or neither.
-		{[][]int{{0, 1, 4}, {0, 2}}, []int{0, 0}, -3000, 1},
-		{[][]int{{0, 1, 4}, {0, 2}}, []int{2, 1}, 3, 3000},
-		{[][]int{{7}}, []int{0}, -3000, 3000},
-		{[][]int{{7}, {-1000}, {1000}, {0}}, []int{0, 0, 0, 0}, -3000, 3000},
-		{[][]int{{7}, {0, 1, 4}}, []int{0, 1}, 1, 3},
-		{[][]int{{-1000, 1000}}, []int{0}, -3000, 2000},
-		{[][]int{{-1000, 1000}}, []int{1}, 2000, 3000},
-		{[][]int{{1000, -1000}}, []int{0}, -3000, -2000},
-		{[][]int{{1000, -1000}}, []int{1}, -2000, 3000},
-		{[][]int{{1000, -1000, 1000}}, []int{1}, -2000, 2000},
-		// One price only, at each side of 0.
-		{[][]int{{0, 1, 2}}, []int{1}, 1, 1},
-		{[][]int{{0, -4, -8}}, []int{1}, -4, -4},
-		{[][]int{{0, 5}, {0, 5}}, []int{1, 0}, 5, 5},
-		{[][]int{{0, 5}, {0, 5}}, []int{0, 1}, 5, 5},
-		{[][]int{{0, 0}, {0, 0}}, []int{0, 1}, 0, 0},
-		{[][]int{{1000, -1000}, {1000, -1000}}, []int{0, 1}, -2000, -2000},
-		// The bounds come from different rows.
-		{[][]int{{0, 1, 9}, {0, 3, 5}, {0, 2, 20}}, []int{1, 0, 1}, 2, 3},
-		{[][]int{{9, 4, 1, 0}, {0, 1}, {5, 0, 0}, {8}}, []int{2, 0, 1, 0}, -3, -1},
-		// Rows that are not bent, at places where only the slopes beside them count.
-		{[][]int{{0, 1, 9, 10}}, []int{1}, 1, 8},
-		{[][]int{{0, 1, 9, 10}}, []int{3}, 1, 3000},
-		{[][]int{{9, 0, 9, 0}}, []int{1}, -9, 9},
-	} {
+	for _, c := range pricedSharings() {
 		low, high, ok := impl.SharePrice(c.rows, c.list)
 		wantTwo(t, low, high, ok, c.low, c.high, true, "SharePrice", c.rows, c.list)
 	}
 }
 
-// TestNoPrice takes sharings that have no price, though they are sharings.
 func TestNoPrice(t *testing.T) {
-	for _, c := range []struct {
-		rows [][]int
-		list []int
-	}{
-		{[][]int{{0, 1, 4}, {0, 2}}, []int{2, 0}},
-		{[][]int{{0, 1}, {0, 0}}, []int{1, 0}},
-		{[][]int{{0, 0}, {0, 1}}, []int{0, 1}},
-		{[][]int{{0, 1, 1}}, []int{1}},
-		{[][]int{{-1000, 1000, -1000}}, []int{1}},
-		{[][]int{{-1000, 1000}, {1000, -1000}}, []int{1, 0}},
-		{[][]int{{0, 1, 4}, {3}, {0, 2, 1}, {3}}, []int{0, 0, 1, 0}},
-		{[][]int{{9, 0, 9, 0}}, []int{2}},
-		{[][]int{{0, 5, 6, 20}, {0, 9}}, []int{3, 0}},
-	} {
+	for _, c := range pricelessSharings() {
 		low, high, ok := impl.SharePrice(c.rows, c.list)
 		wantTwo(t, low, high, ok, 0, 0, false, "SharePrice", c.rows, c.list)
 	}

@@ -297,10 +297,10 @@ func noTerms() []string {
 	return append(texts, longTexts()...)
 }
 
-// changedTexts returns all texts that come by taking a byte off a text, putting one to it, or changing one.
-func changedTexts(s string) []string {
+// changedTexts returns all texts that come by taking a byte off a text, putting one of those told to it, or changing one to such.
+func changedTexts(s string, of string) []string {
 	var all []string
-	others := strings.Split("()+|&-xv059 ,", "")
+	others := strings.Split(of, "")
 	for i := range len(s) {
 		all = append(all, s[:i]+s[i+1:])
 		for _, c := range others {
